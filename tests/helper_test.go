@@ -54,3 +54,44 @@ func textsOver(alphabet string, n int) []string {
 	}
 	return all
 }
+
+// near calls check with every string that differs from s by one byte, and
+// with every part of s that s begins or ends with.
+func near(s string, check func(s string)) {
+	for i := range len(s) + 1 {
+		check(s[:i])
+		check(s[i:])
+		for b := range 256 {
+			check(s[:i] + string([]byte{byte(b)}) + s[i:])
+			if i < len(s) {
+				check(s[:i] + string([]byte{byte(b)}) + s[i+1:])
+			}
+		}
+		if i < len(s) {
+			check(s[:i] + s[i+1:])
+		}
+	}
+}
+
+// readsOnly fails if, near these texts, a reader accepts a string that is not
+// the text of what it returns. Its text is what textOf returns.
+func readsOnly[T any](t *testing.T, texts []string, read func(s string) (T, bool), textOf func(T) string, isZero func(T) bool) {
+	t.Helper()
+	accepted, rejected := 0, 0
+	for _, text := range texts {
+		near(text, func(s string) {
+			value, ok := read(s)
+			if ok {
+				accepted++
+			} else {
+				rejected++
+			}
+			if ok && textOf(value) != s || !ok && !isZero(value) {
+				t.Errorf("%q is read as %v, %v", s, value, ok)
+			}
+		})
+	}
+	if accepted == 0 || rejected == 0 {
+		t.Errorf("%d are accepted, %d rejected", accepted, rejected)
+	}
+}

@@ -449,35 +449,7 @@ func TestReadProgRejects(t *testing.T) {
 
 // A string that ReadProg accepts is the ProgText of what it returns.
 func TestReadProgAcceptsOnlyTexts(t *testing.T) {
-	accepted := 0
-	check := func(s string) {
-		p, ok := impl.ReadProg(s)
-		if !ok && len(p) == 0 {
-			return
-		}
-		accepted++
-		if !ok || !impl.ProgOk(p) || impl.ProgText(p) != s {
-			t.Errorf("ReadProg(%q) = %v, %v", s, p, ok)
-		}
-	}
-	for _, s := range progTexts()[:14] {
-		for i := range len(s) + 1 {
-			check(s[:i])
-			check(s[i:])
-			for b := range 256 {
-				check(s[:i] + string([]byte{byte(b)}) + s[i:])
-				if i < len(s) {
-					check(s[:i] + string([]byte{byte(b)}) + s[i+1:])
-				}
-			}
-			if i < len(s) {
-				check(s[:i] + s[i+1:])
-			}
-		}
-	}
-	if accepted == 0 {
-		t.Error("nothing is accepted")
-	}
+	readsOnly(t, progTexts()[:14], impl.ReadProg, impl.ProgText, func(p []instr) bool { return len(p) == 0 })
 }
 
 func TestEvalExamples(t *testing.T) {
