@@ -95,3 +95,28 @@ func readsOnly[T any](t *testing.T, texts []string, read func(s string) (T, bool
 		t.Errorf("%d are accepted, %d rejected", accepted, rejected)
 	}
 }
+
+// recovers fails if a value has another text than the given one, or is not
+// what is read from it.
+func recovers[T comparable](t *testing.T, value T, text string, textOf func(T) string, read func(s string) (T, bool)) {
+	t.Helper()
+	if s := textOf(value); s != text {
+		t.Errorf("the text of %.200v is %.200q instead of %.200q", value, s, text)
+	}
+	if back, ok := read(text); !ok || back != value {
+		t.Errorf("%.200q is read as %.200v, %v", text, back, ok)
+	}
+}
+
+// hasNoText fails if a value that is not valid has a text, or one is read
+// from the text that it would have.
+func hasNoText[T comparable](t *testing.T, value T, text string, textOf func(T) string, read func(s string) (T, bool)) {
+	t.Helper()
+	var zero T
+	if s := textOf(value); s != "" {
+		t.Errorf("the text of %.200v is %.200q", value, s)
+	}
+	if back, ok := read(text); ok || back != zero {
+		t.Errorf("%.200q is read as %.200v, %v", text, back, ok)
+	}
+}
