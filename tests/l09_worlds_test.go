@@ -521,14 +521,19 @@ func (h *history) add(e event, look bool) {
 	}
 	eventKeeps(h.t, h.j, before, h.world, e)
 	h.answers(h.world)
+	boardsKeep(h.t, h.j, before, h.world)
 }
 
-// answers fails if there is an outcome other than the result of the job.
+// answers fails if there is an outcome other than the result of the job, or
+// OutcomeOf returns anything but the outcome.
 func (h *history) answers(w world) (is bool) {
 	h.t.Helper()
 	r, is := outcome(h.t, h.j, w.Store)
 	if is && !sameResult(r, h.want) {
 		h.t.Fatalf("%.300q after %q: the outcome is %v instead of %v", jobText(h.j), showEvents(h.events), r, h.want)
+	}
+	if got := impl.OutcomeOf(h.j, w.Store); !sameResult(got, r) {
+		h.t.Fatalf("%.300q after %q: OutcomeOf returns %v instead of %v", jobText(h.j), showEvents(h.events), got, r)
 	}
 	return is
 }
