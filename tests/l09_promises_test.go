@@ -301,15 +301,17 @@ func TestPromisesOfShortHistories(t *testing.T) {
 	}
 }
 
-// place is the memory behind a list, up to its capacity.
+// place is the memory behind a list, up to its capacity. The list is kept, as
+// otherwise a later one could be given the same memory.
 type place struct {
 	name     string
+	list     any
 	from, to uintptr
 }
 
 func placeOf[T any](name string, l []T) place {
 	from := uintptr(unsafe.Pointer(unsafe.SliceData(l)))
-	return place{name: name, from: from, to: from + uintptr(cap(l))*unsafe.Sizeof(*new(T))}
+	return place{name: name, list: l, from: from, to: from + uintptr(cap(l))*unsafe.Sizeof(*new(T))}
 }
 
 // placesOf returns the memory of all lists of a world.
